@@ -134,12 +134,17 @@ func everyActs(procs int, count int, l []impl.Act, use func(l []impl.Act)) {
 	}
 }
 
-// someActs makes good acts out of a seed, with a message at about every second one.
-func someActs(procs int, count int, seed uint64) []impl.Act {
-	next := func(below int) int {
+// numbersFrom makes a row of numbers out of a seed, the same one each time.
+func numbersFrom(seed uint64) func(below int) int {
+	return func(below int) int {
 		seed = seed*6364136223846793005 + 1442695040888963407
 		return int(seed>>33) % below
 	}
+}
+
+// someActs makes good acts out of a seed, with a message at about every second one.
+func someActs(procs int, count int, seed uint64) []impl.Act {
+	next := numbersFrom(seed)
 	var l []impl.Act
 	for i := range count {
 		act := impl.Act{Proc: next(procs), From: -1}
