@@ -3,7 +3,6 @@ package tests
 import (
 	"math"
 	"slices"
-	"strconv"
 	"sync"
 	"testing"
 
@@ -814,15 +813,7 @@ func TestNamedLostSignals(t *testing.T) {
 		}
 	}
 	// As many as there can be: thirty in each branch but the current one.
-	var l [][]impl.Event
-	for number := range 11 {
-		row := historyOf(number, impl.EvStart, "")
-		for i := range 30 {
-			row = wentOn(row, number, impl.EvSignal, "s"+strconv.Itoa(number*30+i))
-		}
-		l = append(l, row)
-	}
-	x := tellingsOf(append(l, historyOf(11, impl.EvStart, ""))...)
+	x := tellingsOf(append(rowsOfSignals(11), historyOf(11, impl.EvStart, ""))...)
 	holdBranches(t, x)
 	if got, ok := impl.LostSignals(x); !ok || len(got) != 330 || !slices.IsSorted(got) {
 		t.Error(len(got), ok)

@@ -2,6 +2,7 @@ package tests
 
 import (
 	"slices"
+	"strconv"
 	"strings"
 
 	"loop.example/g00269/impl"
@@ -187,16 +188,33 @@ func historyOf(words ...any) []impl.Event {
 
 // signalsOf makes a history of a start and a signal of each name that a text of names has, all of one Version.
 func signalsOf(version int, names string) []impl.Event {
-	l := historyOf(version, impl.EvStart, "")
-	for _, name := range strings.Fields(names) {
-		l = wentOn(l, version, impl.EvSignal, name)
-	}
-	return l
+	return signalledOn(historyOf(version, impl.EvStart, ""), version, strings.Fields(names)...)
 }
 
 // wentOn makes a row with one event more.
 func wentOn(l []impl.Event, version int, kind int, name string) []impl.Event {
 	return append(slices.Clone(l), impl.Event{Id: len(l) + 1, Version: version, Kind: kind, Name: name})
+}
+
+// signalledOn makes a row with a signal of each of these names more.
+func signalledOn(l []impl.Event, version int, names ...string) []impl.Event {
+	for _, name := range names {
+		l = wentOn(l, version, impl.EvSignal, name)
+	}
+	return l
+}
+
+// rowsOfSignals makes so many histories, each of a Version of its own and with as many signals as may be, no two of one name.
+func rowsOfSignals(count int) [][]impl.Event {
+	var l [][]impl.Event
+	for version := range count {
+		row := historyOf(version, impl.EvStart, "")
+		for i := range 30 {
+			row = wentOn(row, version, impl.EvSignal, "s"+strconv.Itoa(version*30+i))
+		}
+		l = append(l, row)
+	}
+	return l
 }
 
 // wentOnUpTo makes a row of so many events that begins with another one; what is done is told by the Version alone.
