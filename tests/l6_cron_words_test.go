@@ -241,7 +241,12 @@ func someCronText(next func(below int) int) string {
 func somewhatOff(s string, next func(below int) int) string {
 	at := next(len(s))
 	sign := string("0123456789*-/, +.\x00\xff"[next(19)])
-	switch next(3) {
+	return changedAt(s, at, sign, next(3))
+}
+
+// changedAt takes the byte of a place out of a text, puts a sign ahead of it, or writes the sign over it.
+func changedAt(s string, at int, sign string, how int) string {
+	switch how {
 	case 0:
 		return s[:at] + s[at+1:]
 	case 1:

@@ -284,11 +284,5 @@ func everyForm(length int) []string {
 func formOff(s string, next func(below int) int) string {
 	at := next(len(s))
 	sign := string("01abcdefgA2!()&|^ ~\x00\xff"[next(21)])
-	switch next(3) {
-	case 0:
-		return s[:at] + s[at+1:]
-	case 1:
-		return s[:at] + sign + s[at:]
-	}
-	return s[:at] + sign + s[at+1:]
+	return changedAt(s, at, sign, next(3))
 }
